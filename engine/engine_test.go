@@ -889,20 +889,65 @@ func TestCommitOfTheSameValueIsAVersion(t *testing.T) {
 	b.writesNot(n, 0, 1, api.ErrOrder)
 }
 
-func TestCommitBeyondTheLastTime(t *testing.T) {
-	b := over(t, api.MaxNumber-1)
-	b.put(api.Strict, 0, 1)
-	n := b.begins(api.Strict)
-	b.reads(n, 0, 1)
-	b.writes(n, 0, 2)
-	b.tells("Commit", b.e.Commit(n), api.ErrOrder) // Install's: nothing is changed
-	b.is(n, api.Open, api.OK)
-	b.has(api.MaxNumber, 1, pair(0, 1))
-	b.aborts(n)
-	n = b.begins(api.Strict)
-	b.reads(n, 0, 1)
-	b.commits(n)
-	b.did(w(1, 0), r(n, 0, 1))
+func TestCommitWhereLastIsMaxNumber(t *testing.T) {
+	for _, level := range levels() {
+		b := over(t, api.MaxNumber, pair(0, 1), pair(2, 3))
+		for n := 1; n <= 3; n++ {
+			b.begins(level)
+			b.reads(n, 0, 1)
+			b.writes(n, 0, 5)
+			b.writes(n, 1, n)
+			b.commits(n)
+			b.closed(n)
+			b.wrote(n, pair(0, 5), pair(1, n))
+			b.has(api.MaxNumber, 2, pair(0, 1), pair(2, 3))
+		}
+		b.did(r(1, 0, 0), w(1, 0), w(1, 1), r(2, 0, 0), w(2, 0), w(2, 1), r(3, 0, 0), w(3, 0), w(3, 1))
+	}
+}
+
+func TestCommitAtMaxNumberIsTheLastOneInTheStore(t *testing.T) {
+	for _, level := range levels() {
+		b := over(t, api.MaxNumber-1)
+		first := b.put(level, 0, 1)
+		b.has(api.MaxNumber, 1, pair(0, 1))
+		second := b.put(level, 0, 2)
+		b.has(api.MaxNumber, 1, pair(0, 1))
+		third := b.begins(level)
+		b.reads(third, 0, 1)
+		b.commits(third)
+		b.did(w(first, 0), w(second, 0), r(third, 0, first))
+	}
+}
+
+func TestCommitWhereLastIsMaxNumberLetsItsKeysGo(t *testing.T) {
+	for _, level := range levels() {
+		b := over(t, api.MaxNumber)
+		one, other := b.begins(level), b.begins(level)
+		b.writes(one, 0, 1)
+		b.queues(other, 0, 2, one)
+		b.commits(one)
+		b.waits(other, 0)
+		b.is(other, api.Open, api.OK) // there is no later version: it is not Gone by that
+		b.wrote(other, pair(0, 2))
+		b.reads(other, 0, 2)
+		b.commits(other)
+		b.has(api.MaxNumber, 0)
+		b.did(w(one, 0), w(other, 0))
+	}
+}
+
+func TestCommitWhereLastIsMaxNumberTellsReadysErrors(t *testing.T) {
+	b := over(t, api.MaxNumber, pair(0, 1), pair(1, 1))
+	one, other := b.begins(api.Strict), b.begins(api.Strict)
+	b.reads(one, 0, 1)
+	b.reads(other, 1, 1)
+	b.writes(one, 1, 2)
+	b.writes(other, 0, 2)
+	b.commitsNot(one)
+	b.commits(other)
+	b.has(api.MaxNumber, 2, pair(0, 1), pair(1, 1))
+	b.did(r(other, 1, 0), w(other, 0))
 }
 
 func TestAbortCountsForNothing(t *testing.T) {

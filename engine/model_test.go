@@ -271,11 +271,11 @@ func (m *model) Commit(n int) error {
 		return err
 	}
 	x := m.txs[n-1]
-	if len(x.wrote) > 0 {
+	if len(x.wrote) > 0 && m.last < 1<<40 { // above that Install does nothing
 		m.last++
-	}
-	for _, w := range x.wrote {
-		m.install(m.last, n, w)
+		for _, w := range x.wrote {
+			m.install(m.last, n, w)
+		}
 	}
 	m.commits = append(m.commits, n)
 	m.over(n, api.Committed)
@@ -460,6 +460,9 @@ func TestAgainstTheWordsOfTheDocument(t *testing.T) {
 		at := d.below(3)
 		for range at * d.below(3) {
 			l = append(l, api.Write{Key: d.below(5), Value: d.below(9)})
+		}
+		if d.below(4) == 0 {
+			at = api.MaxNumber - d.below(5)
 		}
 		e, err := engine.Over(at, l)
 		if err != nil {
